@@ -13,6 +13,25 @@ func roomyPoints(points []impl.Point) (list, memory []impl.Point) {
 	return memory[:len(points)], memory
 }
 
+func sameMade(a, b [][]impl.Point) bool {
+	return slices.EqualFunc(a, b, func(p, q []impl.Point) bool { return slices.Equal(p, q) })
+}
+
+// checkPointsApart fails if a result has memory in common with the argument or with another result.
+func checkPointsApart(t *testing.T, argument []impl.Point, results [][]impl.Point) {
+	t.Helper()
+	for i, r := range results {
+		if pointsOverlap(r, argument) {
+			t.Errorf("a result %v shares memory with the argument", r)
+		}
+		for _, other := range results[:i] {
+			if pointsOverlap(r, other) {
+				t.Errorf("the results %v and %v share memory", r, other)
+			}
+		}
+	}
+}
+
 // ordersOf returns the polygons that the functions make of a polygon.
 func ordersOf(p []impl.Point) [][]impl.Point {
 	made := [][]impl.Point{impl.TurnPolygon(p), impl.Straightened(p)}
@@ -56,7 +75,7 @@ func TestPolygonArgumentsAreUnchanged(t *testing.T) {
 		}
 		// Answers are the same when the calls come again, and do not depend on the capacity.
 		again, madeAgain := polygonAnswers(slices.Clip(slices.Clone(p))), ordersOf(slices.Clip(slices.Clone(p)))
-		if !slices.Equal(answers, again) || !slices.EqualFunc(made, madeAgain, func(a, b []impl.Point) bool { return slices.Equal(a, b) }) {
+		if !slices.Equal(answers, again) || !sameMade(made, madeAgain) {
 			t.Errorf("the answers about %v change from %v, %v to %v, %v", p, answers, made, again, madeAgain)
 		}
 	})
@@ -65,17 +84,7 @@ func TestPolygonArgumentsAreUnchanged(t *testing.T) {
 func TestPolygonResultsShareNoMemory(t *testing.T) {
 	eachPolygonOrNot(func(p []impl.Point) {
 		list, memory := roomyPoints(p)
-		results := append(ordersOf(list), ordersOf(list)...)
-		for i, r := range results {
-			if pointsOverlap(r, memory) {
-				t.Errorf("a result %v shares memory with the argument", r)
-			}
-			for _, other := range results[:i] {
-				if pointsOverlap(r, other) {
-					t.Errorf("the results %v and %v share memory", r, other)
-				}
-			}
-		}
+		checkPointsApart(t, memory, append(ordersOf(list), ordersOf(list)...))
 	})
 }
 
@@ -90,7 +99,7 @@ func TestPolygonResultsAreNew(t *testing.T) {
 			}
 			_ = append(r, pt(-2, -2))
 		}
-		if got := ordersOf(list); !slices.Equal(memory, before) || !slices.EqualFunc(got, want, func(a, b []impl.Point) bool { return slices.Equal(a, b) }) {
+		if got := ordersOf(list); !slices.Equal(memory, before) || !sameMade(got, want) {
 			t.Errorf("after changes to earlier results the list is %v and the results are %v, want %v", list, got, want)
 		}
 	}
