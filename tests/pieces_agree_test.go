@@ -29,19 +29,7 @@ func cutsByJoins(w, h, mask int) [][]int {
 	seen := map[[9]int]bool{}
 	var cuts [][]int
 	for set := range 1 << len(pairs) {
-		// The piece of each cell is that of the first cell with which it is joined.
-		first := [9]int{0, 1, 2, 3, 4, 5, 6, 7, 8}
-		for j, pair := range pairs {
-			if set&(1<<j) == 0 {
-				continue
-			}
-			low, high := min(first[pair[0]], first[pair[1]]), max(first[pair[0]], first[pair[1]])
-			for i := range first {
-				if first[i] == high {
-					first[i] = low
-				}
-			}
-		}
+		first := joinedCells(pairs, func(j int) bool { return set&(1<<j) != 0 })
 		if !seen[first] {
 			seen[first] = true
 			cuts = append(cuts, numbered(first[:cells]))
@@ -49,6 +37,23 @@ func cutsByJoins(w, h, mask int) [][]int {
 	}
 	slices.SortFunc(cuts, slices.Compare[[]int])
 	return cuts
+}
+
+// joinedCells joins some pairs of at most nine cells, and returns, for each cell, the first one with which it is joined then.
+func joinedCells(pairs [][2]int, isJoined func(j int) bool) [9]int {
+	first := [9]int{0, 1, 2, 3, 4, 5, 6, 7, 8}
+	for j, pair := range pairs {
+		if !isJoined(j) {
+			continue
+		}
+		low, high := min(first[pair[0]], first[pair[1]]), max(first[pair[0]], first[pair[1]])
+		for i := range first {
+			if first[i] == high {
+				first[i] = low
+			}
+		}
+	}
+	return first
 }
 
 // numbered gives the numbers from 0 on to the different numbers of a list, in the order in which they occur.
